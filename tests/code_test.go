@@ -494,27 +494,6 @@ func codeResults(t *testing.T) [][]int {
 		mustNear(t, 0xEEEEEE), mustWeights(t, 0, 4095), mustWeights(t, 64, 64)}
 }
 
-// TestCodeResultsAreNewMemory spoils the results one by one, with all their room: the others stay.
 func TestCodeResultsAreNewMemory(t *testing.T) {
-	results := append(codeResults(t), codeResults(t)...)
-	kept := [][]int{}
-	for _, r := range results {
-		kept = append(kept, slices.Clone(r))
-	}
-	for i, r := range results {
-		r = r[:cap(r)]
-		for k := range r {
-			r[k] = 99
-		}
-		for k := i + 1; k < len(results); k++ {
-			if !slices.Equal(results[k], kept[k]) {
-				t.Fatalf("the result %d changed to %v with the result %d", k, results[k], i)
-			}
-		}
-	}
-	for i, r := range codeResults(t) {
-		if !slices.Equal(r, kept[i]) {
-			t.Fatalf("the result %d changed to %v with an earlier one", i, r)
-		}
-	}
+	checkNewMemory(t, func() [][]int { return codeResults(t) })
 }

@@ -460,33 +460,9 @@ func TestHexArgumentsStay(t *testing.T) {
 	}
 }
 
-// TestHexResultsAreNewMemory spoils the results one by one, with all their room: the others and the arguments stay.
 func TestHexResultsAreNewMemory(t *testing.T) {
 	for _, row := range [][]int{{1, 0, 0, 1, 3, 2}, {0, 0, 0, 0, 0, 0}, {3, 1, 2, 3, 0, 0}} {
 		a, b := slices.Clone(row), make([]int, 6)
-		results := append(hexResults(t, a, b), hexResults(t, a, b)...)
-		kept := [][]int{}
-		for _, r := range results {
-			kept = append(kept, slices.Clone(r))
-		}
-		for i, r := range results {
-			r = r[:cap(r)]
-			for k := range r {
-				r[k] = 99
-			}
-			if !slices.Equal(a, row) || !slices.Equal(b, make([]int, 6)) {
-				t.Fatalf("the lists %v and 0 became %v and %v with the result %d", row, a, b, i)
-			}
-			for k := i + 1; k < len(results); k++ {
-				if !slices.Equal(results[k], kept[k]) {
-					t.Fatalf("the result %d changed to %v with the result %d", k, results[k], i)
-				}
-			}
-		}
-		for i, r := range hexResults(t, a, b) {
-			if !slices.Equal(r, kept[i]) {
-				t.Fatalf("the result %d changed to %v with an earlier one", i, r)
-			}
-		}
+		checkNewMemory(t, func() [][]int { return hexResults(t, a, b) }, a, b)
 	}
 }

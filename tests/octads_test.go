@@ -584,29 +584,8 @@ func octadResults(t *testing.T) [][]int {
 	return slices.Concat(results, mustTriangle(t, 255), mustTriangle(t, 0xFF0000))
 }
 
-// TestOctadResultsAreNewMemory spoils the results one by one, with all their room: the others stay.
 func TestOctadResultsAreNewMemory(t *testing.T) {
-	results := append(octadResults(t), octadResults(t)...)
-	kept := [][]int{}
-	for _, r := range results {
-		kept = append(kept, slices.Clone(r))
-	}
-	for i, r := range results {
-		r = r[:cap(r)]
-		for k := range r {
-			r[k] = 99
-		}
-		for k := range results {
-			if k > i && !slices.Equal(results[k], kept[k]) {
-				t.Fatalf("the result %d changed to %v with the result %d", k, results[k], i)
-			}
-		}
-	}
-	for i, r := range octadResults(t) {
-		if !slices.Equal(r, kept[i]) {
-			t.Fatalf("the result %d changed to %v with an earlier one", i, r)
-		}
-	}
+	checkNewMemory(t, func() [][]int { return octadResults(t) })
 }
 
 // TestTrianglesAreNewMemory spoils the rows of a triangle with all their room: the next triangle stays.
